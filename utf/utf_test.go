@@ -5,6 +5,7 @@ import (
 	"testing"
 	"unicode/utf8"
 
+	"newsreel/sample"
 	"newsreel/utf"
 )
 
@@ -309,23 +310,9 @@ func TestLongTexts(t *testing.T) {
 	}
 }
 
-// texts: n texts, whole, broken off and mixed, from a row of numbers that is always the same.
+// texts: n texts, whole, broken off and mixed.
 func texts(n int) []string {
-	parts := []string{"a", "\x7f", "\x80", "\x8f", "\x90", "\x9f", "\xa0", "\xbf", "\xc0", "\xc2", "\xc3\xa4", "\xdf", "\xe0", "\xe2\x82\xac", "\xe2\x82", "\xed", "\xef\xbf\xbd", "\xf0", "\xf0\x9f\x98\x80", "\xf0\x9f\x98", "\xf4", "\xf5", "\xff", "\x00"}
-	x := uint32(1)
-	next := func(below int) int {
-		x = x*1664525 + 1013904223
-		return int(x>>8) % below
-	}
-	var l []string
-	for range n {
-		s := ""
-		for range next(9) {
-			s += parts[next(len(parts))]
-		}
-		l = append(l, s)
-	}
-	return l
+	return sample.Texts([]string{"a", "\x7f", "\x80", "\x8f", "\x90", "\x9f", "\xa0", "\xbf", "\xc0", "\xc2", "\xc3\xa4", "\xdf", "\xe0", "\xe2\x82\xac", "\xe2\x82", "\xed", "\xef\xbf\xbd", "\xf0", "\xf0\x9f\x98\x80", "\xf0\x9f\x98", "\xf4", "\xf5", "\xff", "\x00"}, n, 9)
 }
 
 func FuzzUtf(f *testing.F) {
