@@ -5,7 +5,6 @@ import (
 	"math"
 	"math/big"
 	"slices"
-	"strconv"
 	"strings"
 	"testing"
 
@@ -64,15 +63,6 @@ func check(t *testing.T, l []string, k int, want ...string) {
 	if !slices.Equal(handed, l) {
 		t.Errorf("by %d %.200q is changed to %.200q", k, l, handed)
 	}
-}
-
-// numbered: the words w0, w1 and so on, n of them.
-func numbered(n int) []string {
-	var l []string
-	for i := range n {
-		l = append(l, "w"+strconv.Itoa(i))
-	}
-	return l
 }
 
 // lists: n lists of words, of empty ones, of those that hold blanks and of bytes that are no runes', mixed.
@@ -175,7 +165,7 @@ func TestOfFewerWordsThanK(t *testing.T) {
 
 func TestOfAsManyWordsAsKAndOneMore(t *testing.T) {
 	for k := 1; k <= 40; k++ {
-		l := numbered(k + 1)
+		l := sample.Numbered(k + 1)
 		check(t, l[:k], k, strings.Join(l[:k], " "))
 		check(t, l, k, strings.Join(l[:k], " "), strings.Join(l[1:], " "))
 		check(t, l, k+2, strings.Join(l, " "))
@@ -183,7 +173,7 @@ func TestOfAsManyWordsAsKAndOneMore(t *testing.T) {
 }
 
 func TestByOneTheShinglesAreTheWords(t *testing.T) {
-	for _, l := range append(lists(500), numbered(1), numbered(5000)) {
+	for _, l := range append(lists(500), sample.Numbered(1), sample.Numbered(5000)) {
 		check(t, l, 1, l...)
 	}
 }
@@ -193,7 +183,7 @@ func TestOfAKBelowOne(t *testing.T) {
 		check(t, []string{"a"}, k)
 		check(t, []string{"a", "b", "c"}, k)
 		check(t, []string{""}, k)
-		check(t, numbered(100), k)
+		check(t, sample.Numbered(100), k)
 	}
 }
 
@@ -237,7 +227,7 @@ func TestHowMany(t *testing.T) {
 			if want < 1 {
 				want = min(n, 1)
 			}
-			l := numbered(n)
+			l := sample.Numbered(n)
 			if s, h := len(shingle.Shingles(l, k)), len(shingle.Hashes(l, k)); s != want || h != want {
 				t.Errorf("of %d words by %d: %d and %d, not %d", n, k, s, h, want)
 			}
@@ -246,7 +236,7 @@ func TestHowMany(t *testing.T) {
 }
 
 func TestManyWords(t *testing.T) {
-	l := numbered(5000) // more than a text's words may be: the chapter cuts none
+	l := sample.Numbered(5000) // more than a text's words may be: the chapter cuts none
 	var pairs []string
 	for i := range len(l) - 1 {
 		pairs = append(pairs, l[i]+" "+l[i+1])
@@ -261,7 +251,7 @@ func TestHashesAreThoseOfTheShingles(t *testing.T) {
 	for _, x := range []struct {
 		l []string
 		k int
-	}{{[]string{"a", "b", "c"}, 2}, {[]string{"a"}, 3}, {numbered(300), 7}, {[]string{"", " ", "\xff"}, 2}} {
+	}{{[]string{"a", "b", "c"}, 2}, {[]string{"a"}, 3}, {sample.Numbered(300), 7}, {[]string{"", " ", "\xff"}, 2}} {
 		var want []uint64
 		for _, s := range shingle.Shingles(x.l, x.k) {
 			want = append(want, shingle.Hash(s))

@@ -3,7 +3,6 @@ package word_test
 import (
 	"math"
 	"slices"
-	"strconv"
 	"strings"
 	"testing"
 	"unicode/utf8"
@@ -43,15 +42,6 @@ func expected(s string) []string {
 		l[i] = w
 	}
 	return l[:min(len(l), 4096)]
-}
-
-// numbered: the words w0, w1 and so on, n of them.
-func numbered(n int) []string {
-	var l []string
-	for i := range n {
-		l = append(l, "w"+strconv.Itoa(i))
-	}
-	return l
 }
 
 func TestLimitsAreThoseOfTheChapter(t *testing.T) {
@@ -219,13 +209,13 @@ func TestSmallFormsOfOtherLengths(t *testing.T) {
 
 func TestManyWords(t *testing.T) {
 	for n := 4094; n <= 4098; n++ {
-		l := numbered(n)
+		l := sample.Numbered(n)
 		for _, s := range []string{strings.Join(l, " "), " " + strings.Join(l, ", "), strings.ToUpper(strings.Join(l, "\xff")) + ".", strings.Join(l, "\n") + strings.Repeat(" ", 100)} {
 			check(t, s, l[:min(n, 4096)]...)
 		}
 	}
 	check(t, strings.Repeat("a ", 10000), slices.Repeat([]string{"a"}, 4096)...)
-	long := numbered(4095)
+	long := sample.Numbered(4095)
 	check(t, strings.Join(long, " ")+" "+strings.Repeat("z", 100)+" y", append(long, strings.Repeat("z", 64))...)
 }
 
@@ -291,7 +281,7 @@ func TestAnswersShareNothing(t *testing.T) {
 }
 
 func TestWordsOfWordsAreThese(t *testing.T) {
-	more := []string{strings.Repeat("Ä新", 40) + " " + strings.Repeat("a", 63) + "新b c", strings.Join(numbered(5000), "\xff"), strings.Repeat("新", 3000)}
+	more := []string{strings.Repeat("Ä新", 40) + " " + strings.Repeat("a", 63) + "新b c", strings.Join(sample.Numbered(5000), "\xff"), strings.Repeat("新", 3000)}
 	for _, s := range append(texts(5000), more...) {
 		l := word.Words(s)
 		if again := word.Words(word.Join(l)); !slices.Equal(again, l) {
