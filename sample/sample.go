@@ -1,7 +1,10 @@
-// Package sample makes texts that the layers' tests read; the program itself doesn't call it.
+// Package sample makes texts and numbers that the layers' tests read; the program itself doesn't call it.
 package sample
 
-import "strconv"
+import (
+	"math"
+	"strconv"
+)
 
 // Texts: n texts, each of fewer than most of the parts, put together by a row of numbers that is always the same, so that a test that fails fails again.
 func Texts(parts []string, n, most int) []string {
@@ -26,6 +29,27 @@ func Numbered(n int) []string {
 	var l []string
 	for i := range n {
 		l = append(l, "w"+strconv.Itoa(i))
+	}
+	return l
+}
+
+// Mixed: n numbers, always the same, with bits of all places.
+func Mixed(n int) []uint64 {
+	x := uint64(1)
+	var l []uint64
+	for range n {
+		x = x*6364136223846793005 + 1442695040888963407
+		l = append(l, x^x>>32) // the low bits of x alone would soon come again
+	}
+	return l
+}
+
+// Edges: the numbers at the ends, and those of one bit, of all but one, of every second, and of half of them.
+func Edges() []uint64 {
+	const all = math.MaxUint64
+	l := []uint64{0, all, all >> 1, 0x5555555555555555, 0xaaaaaaaaaaaaaaaa, 0xffffffff, 0xffffffff00000000}
+	for bit := range 64 {
+		l = append(l, 1<<bit, all^1<<bit)
 	}
 	return l
 }

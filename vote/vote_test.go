@@ -74,24 +74,6 @@ func checkVotes(t *testing.T, l []uint64, rest int, named map[int]int) {
 	}
 }
 
-// mixed: n numbers, always the same, with bits of all places.
-func mixed(n int) []uint64 {
-	var l []uint64
-	for i := range n {
-		l = append(l, shingle.Hash(strconv.Itoa(i)))
-	}
-	return l
-}
-
-// edges: the numbers at the ends, and those of one bit, of all but one, and of every second.
-func edges() []uint64 {
-	l := []uint64{0, all, all >> 1, 0x5555555555555555, 0xaaaaaaaaaaaaaaaa, 0xffffffff, 0xffffffff00000000}
-	for bit := range 64 {
-		l = append(l, 1<<bit, all^1<<bit)
-	}
-	return l
-}
-
 func TestVotes(t *testing.T) {
 	checkVotes(t, []uint64{1, 1, 2}, -3, map[int]int{0: 1, 1: -1})
 	checkVotes(t, []uint64{6}, -1, map[int]int{1: 1, 2: 1})
@@ -122,7 +104,7 @@ func TestOfNoNumbers(t *testing.T) {
 }
 
 func TestOfOneNumber(t *testing.T) {
-	for _, x := range append(edges(), mixed(500)...) {
+	for _, x := range append(sample.Edges(), sample.Mixed(500)...) {
 		check(t, x, x)
 		for bit, v := range vote.Votes([]uint64{x}) {
 			if v != 1 && v != -1 || (v == 1) != (x&(1<<bit) != 0) {
@@ -215,7 +197,7 @@ func TestEachBitVotesByItself(t *testing.T) {
 
 // Of two numbers those bits are told that both have, of three those that two have.
 func TestOfTwoAndOfThree(t *testing.T) {
-	l := append(edges(), mixed(40)...)
+	l := append(sample.Edges(), sample.Mixed(40)...)
 	for _, a := range l {
 		for _, b := range l {
 			if got := vote.Sig([]uint64{a, b}); got != a&b {
@@ -230,7 +212,7 @@ func TestOfTwoAndOfThree(t *testing.T) {
 }
 
 func TestAreThoseOfAnotherWay(t *testing.T) {
-	l := append(mixed(300), edges()...)
+	l := append(sample.Mixed(300), sample.Edges()...)
 	for from := range l {
 		for n := 0; n <= 12; n++ {
 			part := l[from:min(from+n, len(l))]
@@ -239,14 +221,14 @@ func TestAreThoseOfAnotherWay(t *testing.T) {
 		}
 	}
 	for _, n := range []int{100, 1000, 4096, 5000} {
-		_, want := expected(mixed(n))
-		check(t, want, mixed(n)...)
+		_, want := expected(sample.Mixed(n))
+		check(t, want, sample.Mixed(n)...)
 	}
 }
 
 func TestTheOrderIsOfNoAccount(t *testing.T) {
 	for n := 0; n <= 70; n++ {
-		l := mixed(n)
+		l := sample.Mixed(n)
 		l = append(l, l[:n/2]...) // some of them twice
 		_, want := expected(l)
 		votes := vote.Votes(l)
@@ -279,7 +261,7 @@ func TestEachOrderOfFour(t *testing.T) {
 func TestABitThatAllHaveIsIn(t *testing.T) {
 	for n := 1; n <= 60; n++ {
 		for bit := range 64 {
-			have, havent := mixed(n), mixed(n)
+			have, havent := sample.Mixed(n), sample.Mixed(n)
 			for i := range n {
 				have[i] |= 1 << bit
 				havent[i] &^= 1 << bit
