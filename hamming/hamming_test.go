@@ -4,7 +4,6 @@ import (
 	"math"
 	"math/bits"
 	"slices"
-	"strconv"
 	"strings"
 	"testing"
 
@@ -18,15 +17,9 @@ const (
 	high = uint64(1) << 63
 )
 
-// digits: a in base two, in 64 digits.
-func digits(a uint64) string {
-	s := strconv.FormatUint(a, 2)
-	return strings.Repeat("0", 64-len(s)) + s
-}
-
 // apart: the distance told another way: by the digits of both, place by place.
 func apart(a, b uint64) int {
-	x, y, n := digits(a), digits(b), 0
+	x, y, n := sample.Digits(a), sample.Digits(b), 0
 	for i := range x {
 		if x[i] != y[i] {
 			n++
@@ -47,7 +40,7 @@ func numbers(n int) []uint64 {
 // checkWeight: that a has so many bits, and its digits say so, too.
 func checkWeight(t *testing.T, a uint64, want int) {
 	t.Helper()
-	if n := strings.Count(digits(a), "1"); n != want {
+	if n := strings.Count(sample.Digits(a), "1"); n != want {
 		t.Errorf("%x has %d digits 1, not %d", a, n, want)
 	}
 	if got := hamming.Weight(a); got != want {

@@ -4,6 +4,7 @@ package sample
 import (
 	"math"
 	"strconv"
+	"strings"
 )
 
 // Texts: n texts, each of fewer than most of the parts, put together by a row of numbers that is always the same, so that a test that fails fails again.
@@ -52,4 +53,10 @@ func Edges() []uint64 {
 		l = append(l, 1<<bit, all^1<<bit)
 	}
 	return l
+}
+
+// Digits: a in base two, in 64 digits, the highest one first.
+func Digits(a uint64) string {
+	s := strconv.FormatUint(a, 2)
+	return strings.Repeat("0", 64-len(s)) + s
 }

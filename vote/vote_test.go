@@ -22,8 +22,7 @@ const all = math.MaxUint64
 func expected(l []uint64) (votes [64]int, sig uint64) {
 	var rows []string
 	for _, x := range l {
-		digits := strconv.FormatUint(x, 2)
-		rows = append(rows, strings.Repeat("0", 64-len(digits))+digits)
+		rows = append(rows, sample.Digits(x))
 	}
 	digits := make([]byte, 64)
 	for i := range digits { // the highest digit comes first
