@@ -14,12 +14,6 @@ import (
 
 const all = math.MaxUint64
 
-// wrong: distances that may not be; their bands' numbers may be none either.
-func wrong() []int {
-	return []int{math.MinInt, math.MinInt + 1, -1 << 32, -1<<32 + 3, -1 << 31, -65, -64, -17, -16, -3, -2, -1,
-		16, 17, 18, 31, 32, 63, 64, 65, 127, 128, 255, 256, 259, 1 << 16, 1<<31 - 1, 1 << 31, 1 << 32, 1<<32 + 3, math.MaxInt - 1, math.MaxInt}
-}
-
 // widths: how many bits the bands by d have, told another way: the 64 bits are dealt out one by one.
 func widths(d int) []int {
 	l := make([]int, d+1)
@@ -124,7 +118,7 @@ func TestCheck(t *testing.T) {
 			t.Errorf("%d may be", d)
 		}
 	}
-	for _, d := range wrong() {
+	for _, d := range sample.NoDistances() {
 		if band.Check(d) {
 			t.Errorf("%d may not be", d)
 		}
@@ -189,7 +183,7 @@ func TestPlacesWhereWidthsChange(t *testing.T) {
 
 func TestWhereNoBandIs(t *testing.T) {
 	for d := range 16 {
-		for _, i := range append(wrong(), d+1, d+2, 2*d+1, 2*d+2, d-256, d+256, d+1<<32) {
+		for _, i := range append(sample.NoDistances(), d+1, d+2, 2*d+1, 2*d+2, d-256, d+256, d+1<<32) {
 			if 0 <= i && i <= d {
 				continue
 			}
@@ -204,8 +198,8 @@ func TestWhereNoBandIs(t *testing.T) {
 }
 
 func TestDistancesThatMayNotBe(t *testing.T) {
-	for _, d := range wrong() {
-		for _, i := range append(wrong(), 0, 1, 2, 3, 4, 15, d, d-1, d+1) {
+	for _, d := range sample.NoDistances() {
+		for _, i := range append(sample.NoDistances(), 0, 1, 2, 3, 4, 15, d, d-1, d+1) {
 			checkPlace(t, d, i, 0, 0)
 			for _, s := range []uint64{0, 1, 1 << 63, all} {
 				if got := band.Band(s, d, i); got != 0 {

@@ -60,3 +60,9 @@ func Digits(a uint64) string {
 	s := strconv.FormatUint(a, 2)
 	return strings.Repeat("0", 64-len(s)) + s
 }
+
+// NoDistances: numbers that are no distance that layer 7 lets, the ends of their type among them, and some whose low bits alone would be one.
+func NoDistances() []int {
+	return []int{math.MinInt, math.MinInt + 1, -1 << 32, -1<<32 + 3, -1 << 31, -65, -64, -17, -16, -3, -2, -1,
+		16, 17, 18, 31, 32, 63, 64, 65, 127, 128, 255, 256, 259, 1 << 16, 1<<31 - 1, 1 << 31, 1 << 32, 1<<32 + 3, math.MaxInt - 1, math.MaxInt}
+}
