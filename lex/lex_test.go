@@ -20,26 +20,10 @@ import (
 const deep = 1 << 20
 
 // The tokens of which answers are made.
-
-func start(name string, attrs ...api.Attr) api.Token {
-	return api.Token{Kind: api.TokStart, Name: name, Attrs: attrs}
-}
-
-func empty(name string, attrs ...api.Attr) api.Token {
-	return api.Token{Kind: api.TokEmpty, Name: name, Attrs: attrs}
-}
-
-func end(name string) api.Token { return api.Token{Kind: api.TokEnd, Name: name} }
-
-func text(s string) api.Token { return api.Token{Kind: api.TokText, Text: s} }
-
-func attr(name, value string) api.Attr { return api.Attr{Name: name, Value: value} }
-
-func sameToken(a, b api.Token) bool {
-	return a.Kind == b.Kind && a.Name == b.Name && a.Text == b.Text && slices.Equal(a.Attrs, b.Attrs)
-}
-
-func sameTokens(a, b []api.Token) bool { return slices.EqualFunc(a, b, sameToken) }
+var (
+	start, empty, end, text, attr = sample.Start, sample.Empty, sample.End, sample.Text, sample.Attr
+	sameTokens                    = sample.SameTokens
+)
 
 // height: how many of the elements are in one another at most, the outermost one among them.
 func height(l []api.Token) int {
@@ -113,10 +97,8 @@ func checkFault(t *testing.T, s string, depth int, want api.Code) {
 		t.Errorf("Tokens(%.200q, %d): %v, %v, not %v", s, depth, got, err, want)
 		return
 	}
-	for c := api.OK - 1; c <= api.ErrBroken+1; c++ {
-		if errors.Is(err, c) != (c == want) {
-			t.Errorf("Tokens(%.200q, %d): %v, Code %d told: %v, not %v", s, depth, err, c, c != want, want)
-		}
+	if told := sample.Codes(err); !slices.Equal(told, []api.Code{want}) {
+		t.Errorf("Tokens(%.200q, %d): %v, tells %d, not %d alone", s, depth, err, told, want)
 	}
 	var code api.Code
 	if !errors.As(err, &code) || code != want {

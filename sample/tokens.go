@@ -1,0 +1,45 @@
+package sample
+
+import (
+	"errors"
+	"slices"
+
+	"newsreel/api"
+)
+
+// Start: the token that begins an element.
+func Start(name string, attrs ...api.Attr) api.Token {
+	return api.Token{Kind: api.TokStart, Name: name, Attrs: attrs}
+}
+
+// Empty: the token of an element that has nothing within.
+func Empty(name string, attrs ...api.Attr) api.Token {
+	return api.Token{Kind: api.TokEmpty, Name: name, Attrs: attrs}
+}
+
+// End: the token that ends an element.
+func End(name string) api.Token { return api.Token{Kind: api.TokEnd, Name: name} }
+
+// Text: the token of a text.
+func Text(s string) api.Token { return api.Token{Kind: api.TokText, Text: s} }
+
+// Attr: an attribute.
+func Attr(name, value string) api.Attr { return api.Attr{Name: name, Value: value} }
+
+// SameTokens: whether a and b are alike; a list of no attributes is like another one.
+func SameTokens(a, b []api.Token) bool {
+	return slices.EqualFunc(a, b, func(x, y api.Token) bool {
+		return x.Kind == y.Kind && x.Name == y.Name && x.Text == y.Text && slices.Equal(x.Attrs, y.Attrs)
+	})
+}
+
+// Codes: which Codes err is, or wraps, rising; those beside the ones that api has are asked for, too.
+func Codes(err error) []api.Code {
+	var l []api.Code
+	for c := api.OK - 1; c <= api.ErrBroken+1; c++ {
+		if errors.Is(err, c) {
+			l = append(l, c)
+		}
+	}
+	return l
+}
