@@ -4,7 +4,6 @@ import (
 	"errors"
 	"math"
 	"regexp"
-	"slices"
 	"strconv"
 	"strings"
 	"testing"
@@ -97,18 +96,9 @@ func checkFault(t *testing.T, s string, depth int, want api.Code) {
 		t.Errorf("Tokens(%.200q, %d): %v, %v, not %v", s, depth, got, err, want)
 		return
 	}
-	if told := sample.Codes(err); !slices.Equal(told, []api.Code{want}) {
-		t.Errorf("Tokens(%.200q, %d): %v, tells %d, not %d alone", s, depth, err, told, want)
-	}
-	var code api.Code
-	if !errors.As(err, &code) || code != want {
-		t.Errorf("Tokens(%.200q, %d): finds %v, not %v", s, depth, code, want)
-	}
-	var f *api.Fault
-	if !errors.As(err, &f) {
-		t.Errorf("Tokens(%.200q, %d): %v is no api.Fault", s, depth, err)
-	} else if f.At < 0 || f.At > len(s) {
-		t.Errorf("Tokens(%.200q, %d): at %d of %d bytes", s, depth, f.At, len(s))
+	at, amiss := sample.Fault(err, want)
+	if amiss != "" || at < 0 || at > len(s) {
+		t.Errorf("Tokens(%.200q, %d): %v, %s, at %d of %d bytes", s, depth, err, amiss, at, len(s))
 	}
 }
 

@@ -1,4 +1,4 @@
-// Package sample makes texts, numbers and tokens that the layers' tests read; the program itself doesn't call it.
+// Package sample makes texts, numbers, tokens and nodes that the layers' tests read; the program itself doesn't call it.
 package sample
 
 import (

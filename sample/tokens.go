@@ -3,6 +3,7 @@ package sample
 import (
 	"errors"
 	"slices"
+	"strconv"
 
 	"newsreel/api"
 )
@@ -33,13 +34,20 @@ func SameTokens(a, b []api.Token) bool {
 	})
 }
 
-// Codes: which Codes err is, or wraps, rising; those beside the ones that api has are asked for, too.
-func Codes(err error) []api.Code {
-	var l []api.Code
-	for c := api.OK - 1; c <= api.ErrBroken+1; c++ {
-		if errors.Is(err, c) {
-			l = append(l, c)
+// Fault: the place that err tells, and what is amiss with err, which must be an api.Fault that wraps the Code want and no other one; nothing, if it is so.
+func Fault(err error, want api.Code) (int, string) {
+	for c := api.OK - 1; c <= api.ErrBroken+1; c++ { // those beside the ones that api has, too
+		if errors.Is(err, c) != (c == want) {
+			return 0, "errors.Is of Code " + strconv.Itoa(int(c)) + " is wrong"
 		}
 	}
-	return l
+	var code api.Code
+	if !errors.As(err, &code) || code != want {
+		return 0, "errors.As finds not " + want.Error()
+	}
+	var f *api.Fault
+	if !errors.As(err, &f) {
+		return 0, "no api.Fault"
+	}
+	return f.At, ""
 }

@@ -2,6 +2,7 @@ package tree_test
 
 import (
 	"errors"
+	"iter"
 	"math"
 	"slices"
 	"strconv"
@@ -17,19 +18,11 @@ import (
 // The tokens that trees are made of.
 var start, empty, end, text, attr = sample.Start, sample.Empty, sample.End, sample.Text, sample.Attr
 
-// element: an element's node.
-func element(up int, name string, attrs ...api.Attr) api.Node {
-	return api.Node{Name: name, Attrs: attrs, Up: up}
-}
-
-// words: a text's node.
-func words(up int, s string) api.Node { return api.Node{Text: s, Up: up} }
-
-func sameNodes(a, b []api.Node) bool {
-	return slices.EqualFunc(a, b, func(x, y api.Node) bool {
-		return x.Name == y.Name && x.Text == y.Text && x.Up == y.Up && slices.Equal(x.Attrs, y.Attrs)
-	})
-}
+// The nodes of trees, and lists of them.
+var (
+	element, words, sameNodes = sample.Element, sample.Words, sample.SameNodes
+	deepNodes, spoil, away    = sample.CopyNodes, sample.SpoilNodes, sample.Away
+)
 
 // checkNodes: Build answers just these nodes of l.
 func checkNodes(t *testing.T, l []api.Token, want ...api.Node) {
@@ -47,16 +40,8 @@ func checkNone(t *testing.T, l ...api.Token) {
 		t.Errorf("Build(%.300v): %.300v, %v, not a fault", l, got, err)
 		return
 	}
-	if told := sample.Codes(err); !slices.Equal(told, []api.Code{api.ErrForm}) {
-		t.Errorf("Build(%.300v): %v, tells %d, not ErrForm alone", l, err, told)
-	}
-	var code api.Code
-	if !errors.As(err, &code) || code != api.ErrForm {
-		t.Errorf("Build(%.300v): finds %v, not ErrForm", l, code)
-	}
-	var f *api.Fault
-	if !errors.As(err, &f) || f.At != 0 {
-		t.Errorf("Build(%.300v): %#v is no api.Fault of no place", l, err)
+	if at, amiss := sample.Fault(err, api.ErrForm); amiss != "" || at != 0 {
+		t.Errorf("Build(%.300v): %v, %s, at %d, not of no place", l, err, amiss, at)
 	}
 }
 
@@ -106,12 +91,6 @@ func checkAttr(t *testing.T, x api.Node, name, want string, there bool) {
 	if got, ok := tree.Attr(x, name); got != want || ok != there {
 		t.Errorf("Attr(%v, %q): %q, %v, not %q, %v", x, name, got, ok, want, there)
 	}
-}
-
-// away: numbers that are no places of n nodes, the ends of their type among them, and some whose low bits alone would be one.
-func away(n int) []int {
-	return []int{math.MinInt, math.MinInt + 1, math.MinInt + n, -1 << 32, -1<<32 + 1, -1 << 31, -n - 1, -2, -1,
-		n, n + 1, 2*n + 1, 1<<31 - 1, 1 << 31, 1 << 32, 1<<32 + 1, math.MaxInt - 1, math.MaxInt}
 }
 
 // checkAsked: Kids, Named and Text tell of l what the other way tells, at each place and away from all.
@@ -309,35 +288,18 @@ func TestAttributesAreTheTokens(t *testing.T) {
 	checkNodes(t, []api.Token{start("a", many...), end("a")}, element(-1, "a", many...))
 }
 
-// allLists: gives each list of up to so many of the parts to see, until the test has failed.
-func allLists[T any](t *testing.T, parts []T, most int, see func(l []T)) {
-	var longer func(l []T)
-	longer = func(l []T) {
-		if t.Failed() {
-			return
-		}
-		see(l)
-		if len(l) == most {
-			return
-		}
-		for _, x := range parts {
-			longer(append(l, x))
-		}
-	}
-	longer(make([]T, 0, most))
-}
-
 func TestAllShortLists(t *testing.T) {
 	parts := []api.Token{start("a"), end("a"), start("b"), end("b"), empty("a"), text("x")}
-	allLists(t, parts, 6, func(l []api.Token) {
-		checkAlike(t, l)
-		checkAlike(t, slices.Concat([]api.Token{start("a")}, l, []api.Token{end("a")}))
-	})
 	odd := []api.Token{start("a"), end("a"), empty("b", attr("c", "d")), text(""), start(""), empty(""), end(""), {Name: "a"}, {Kind: 5}, {Kind: -1}, {Kind: api.TokEnd, Name: "a", Text: "x"}, {Kind: api.TokText, Name: "a"}}
-	allLists(t, odd, 4, func(l []api.Token) {
-		checkAlike(t, l)
-		checkAlike(t, slices.Concat([]api.Token{start("a")}, l, []api.Token{end("a")}))
-	})
+	for _, lists := range []iter.Seq[[]api.Token]{sample.Lists(parts, 6), sample.Lists(odd, 4)} {
+		for l := range lists {
+			checkAlike(t, l)
+			checkAlike(t, slices.Concat([]api.Token{start("a")}, l, []api.Token{end("a")}))
+			if t.Failed() {
+				return
+			}
+		}
+	}
 }
 
 // mixedTree: the tokens of a tree of some n elements and texts, by mixed numbers.
@@ -520,7 +482,7 @@ func TestAllShortListsOfNodes(t *testing.T) {
 	for up := -2; up <= most; up++ {
 		parts = append(parts, words(up, ""), element(up, "a"))
 	}
-	allLists(t, parts, most, func(l []api.Node) {
+	for l := range sample.Lists(parts, most) {
 		for i := range l {
 			l[i].Text = strconv.Itoa(i)
 		}
@@ -530,7 +492,10 @@ func TestAllShortListsOfNodes(t *testing.T) {
 		for i, kids := range kidsOf(l) {
 			checkKids(t, l, i, kids...)
 		}
-	})
+		if t.Failed() {
+			return
+		}
+	}
 }
 
 func TestMixedLists(t *testing.T) {
@@ -572,12 +537,6 @@ func TestAttr(t *testing.T) {
 	checkAttr(t, element(0, "a", attr("b", "b"), attr("c", "1"), attr("b", "2")), "c", "1", true)
 }
 
-// roomy: a copy of l that has spare room, all of it filled with x.
-func roomy[T any](l []T, x T) []T {
-	whole := append(slices.Clone(l), x, x, x)
-	return whole[:len(l)]
-}
-
 // deepTokens: a copy of l, its spare room and its attributes' among it, to hold l against later.
 func deepTokens(l []api.Token) []api.Token {
 	c := slices.Clone(l[:cap(l)])
@@ -587,33 +546,13 @@ func deepTokens(l []api.Token) []api.Token {
 	return c
 }
 
-func deepNodes(l []api.Node) []api.Node {
-	c := slices.Clone(l[:cap(l)])
-	for i := range c {
-		c[i].Attrs = slices.Clone(c[i].Attrs[:cap(c[i].Attrs)])
-	}
-	return c
-}
-
 // given: lists of tokens, of a tree and of none, that have spare room, and attributes that do.
 func given() [][]api.Token {
-	attrs := roomy([]api.Attr{attr("b", "1"), attr("c", "2")}, attr("spare", "3"))
+	attrs := sample.Roomy([]api.Attr{attr("b", "1"), attr("c", "2")}, attr("spare", "3"))
 	l := []api.Token{start("a", attrs...), text("x"), empty("a", attrs[:1]...), empty("b", attrs...), empty("c", attrs[:0]...), end("a")}
 	l[0].Attrs, l[2].Attrs, l[3].Attrs, l[4].Attrs = attrs, attrs[:1], attrs, attrs[:0]
 	spare := empty("spare", attr("spare", "4"))
-	return [][]api.Token{roomy(l, spare), roomy(l[:4], spare), roomy(l[2:3], spare), roomy(l[:0], spare), roomy(append(slices.Clone(l), text("y")), spare)}
-}
-
-// spoil: writes over all that nodes have, their spare room too.
-func spoil(l []api.Node) {
-	whole := l[:cap(l)]
-	for i := range whole {
-		attrs := whole[i].Attrs[:cap(whole[i].Attrs)]
-		for k := range attrs {
-			attrs[k] = attr("spoilt", "spoilt")
-		}
-		whole[i] = words(-7, "spoilt")
-	}
+	return [][]api.Token{sample.Roomy(l, spare), sample.Roomy(l[:4], spare), sample.Roomy(l[2:3], spare), sample.Roomy(l[:0], spare), sample.Roomy(append(slices.Clone(l), text("y")), spare)}
 }
 
 func TestTokensAreNotChanged(t *testing.T) {
@@ -692,7 +631,7 @@ func TestFaultsShareNothing(t *testing.T) {
 
 // What Kids, Named and Text answer is new memory, and nothing of the list is changed.
 func TestAsksChangeNothing(t *testing.T) {
-	l := roomy(built(t, given()[0]...), words(0, "spare"))
+	l := sample.Roomy(built(t, given()[0]...), words(0, "spare"))
 	before := deepNodes(l)
 	for _, i := range append(away(len(l)), 0, 1, 2, 3, 4) {
 		for range 2 {
