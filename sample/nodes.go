@@ -3,6 +3,7 @@ package sample
 import (
 	"iter"
 	"math"
+	"math/bits"
 	"slices"
 
 	"newsreel/api"
@@ -42,6 +43,48 @@ func SpoilNodes(l []api.Node) {
 		}
 		whole[i] = Words(-7, "spoilt")
 	}
+}
+
+// RoomyNodes: a copy of l that has spare room, and whose attributes have some; nodes without any get one.
+func RoomyNodes(l []api.Node) []api.Node {
+	c := Roomy(l, Words(0, "spare"))
+	for i := range c {
+		attrs := c[i].Attrs
+		if len(attrs) == 0 {
+			attrs = []api.Attr{Attr("a", "b")}
+		}
+		c[i].Attrs = Roomy(attrs, Attr("spare", "c"))
+	}
+	return c
+}
+
+// Tangle: n of the parts behind the head, by mixed numbers. A part's first node hangs on the head's last one, if its name is kid, else mostly on the last of those kids; its others have places of the part as parents. But of 64 nodes so many as loose says hang anywhere, and sometimes so does the list's first one.
+func Tangle(head []api.Node, parts [][]api.Node, kid string, n int, mixed []uint64, loose uint64) []api.Node {
+	l := slices.Clone(head)
+	last := len(head) - 1
+	for i := range n {
+		m := mixed[i%len(mixed)]
+		begin := len(l)
+		for k, x := range parts[m>>8%uint64(len(parts))] {
+			x.Up += begin
+			switch {
+			case k == 0 && x.Name == kid:
+				x.Up, last = len(head)-1, begin
+			case k == 0 && m>>24%4 == 0:
+				x.Up = begin - 1
+			case k == 0:
+				x.Up = last
+			}
+			if m = bits.RotateLeft64(m, 7); m>>32%64 < loose {
+				x.Up = int(m>>40%uint64(len(l)+9)) - 1
+			}
+			l = append(l, x)
+		}
+	}
+	if m := mixed[0] >> 7; m%64 < loose {
+		l[0].Up = int(m >> 8 % uint64(len(l)+1))
+	}
+	return l
 }
 
 // Roomy: a copy of l that has spare room, all of it filled with x.
