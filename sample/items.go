@@ -48,8 +48,8 @@ func FewNodes(l []api.Node) []api.Node {
 	return c
 }
 
-// fewItems: the first ones of l, and the begins of their texts.
-func fewItems(l []api.Item) []api.Item {
+// FewItems: the first ones of l, and the begins of their texts.
+func FewItems(l []api.Item) []api.Item {
 	c := slices.Clone(l[:min(len(l), 10)])
 	for i, x := range c {
 		for n, s := range []string{x.Guid, x.Title, x.Link, x.Body} {
@@ -79,7 +79,7 @@ func (read Reader) Reads(t Teller, l []api.Node, many, most int, want ...api.Ite
 func (read Reader) ReadsBy(t Teller, l []api.Node, many, most int, want ...api.Item) {
 	t.Helper()
 	if got, err := read(l, many, most); err != nil || !slices.Equal(got, want) {
-		t.Errorf("Items(%v, %d, %d): %v, %v, not %v", FewNodes(l), many, most, fewItems(got), err, fewItems(want))
+		t.Errorf("Items(%v, %d, %d): %v, %v, not %v", FewNodes(l), many, most, FewItems(got), err, FewItems(want))
 	}
 }
 
@@ -96,7 +96,7 @@ func (read Reader) Refuses(t Teller, l []api.Node, many, most int, want api.Code
 	t.Helper()
 	got, err := read(l, many, most)
 	if len(got) != 0 || err == nil {
-		t.Errorf("Items(%v, %d, %d): %v, %v, not a fault", FewNodes(l), many, most, fewItems(got), err)
+		t.Errorf("Items(%v, %d, %d): %v, %v, not a fault", FewNodes(l), many, most, FewItems(got), err)
 		return
 	}
 	if at, amiss := Fault(err, want); amiss != "" || at != 0 {
