@@ -122,13 +122,7 @@ func (d dialect) plain(l []api.Node, many, most int) ([]api.Item, api.Code) {
 		wrong = wrong || x.Guid == "" || !good
 		items = append(items, x)
 	}
-	switch {
-	case over:
-		return nil, api.ErrLimit
-	case wrong:
-		return nil, api.ErrEntry
-	}
-	return items, api.OK
+	return sample.Told(items, over, wrong)
 }
 
 // alike: the dialect is read of l as the other way tells it.

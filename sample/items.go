@@ -83,6 +83,17 @@ func (read Reader) ReadsBy(t Teller, l []api.Node, many, most int, want ...api.I
 	}
 }
 
+// Told: what is told of entries by another way: ErrLimit, if they are over a limit; ErrEntry, if one is wrong; else OK, and they.
+func Told(items []api.Item, over, wrong bool) ([]api.Item, api.Code) {
+	switch {
+	case over:
+		return nil, api.ErrLimit
+	case wrong:
+		return nil, api.ErrEntry
+	}
+	return items, api.OK
+}
+
 // greater: one more than n, if there is one.
 func greater(n int) int {
 	if n == math.MaxInt {

@@ -45,6 +45,16 @@ func Mixed(n int) []uint64 {
 	return l
 }
 
+// Bytes: fewer than most bytes, any ones, by the mixed number m.
+func Bytes(m, most uint64) string {
+	var b []byte
+	for range m % most {
+		b = append(b, byte(m>>24))
+		m = m*6364136223846793005 + 1442695040888963407
+	}
+	return string(b)
+}
+
 // Edges: the numbers at the ends, and those of one bit, of all but one, of every second, and of half of them.
 func Edges() []uint64 {
 	const all = math.MaxUint64
